@@ -1,0 +1,1 @@
+"""Functions handed over: rows gone through, put together, searched by them."""

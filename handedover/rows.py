@@ -1,0 +1,48 @@
+"""Rows gone through by functions that are handed over, with all that was asked of these told in order.
+
+A function is its number here, and the list answers holds what it says, asking by asking.
+"""
+
+
+def ask(answers, asked, f, c, x, y):
+    """Tell one asking at the end of asked and give back its answer: 0 once the answers are used up."""
+    # Each asking tells four numbers, so what was asked so far also says how many answers are used.
+    turn = len(asked) // 4
+    asked.extend([f, c, x, y])
+    if turn < len(answers):
+        return answers[turn]
+    return 0
+
+
+def given_back(number, told, asked):
+    """Lay out the three things that a call answers as one list."""
+    return [number, len(told)] + told + [len(asked)] + asked
+
+
+def fold(f, c, begin, a, answers):
+    """Answer r: begin at first, then f (c, r, x) for each x of a from the front on."""
+    asked = []
+    r = begin
+    for x in a:
+        r = ask(answers, asked, f, c, r, x)
+    return given_back(r, [], asked)
+
+
+def back(f, c, begin, a, answers):
+    """Answer r: begin at first, then f (c, x, r) for each x of a from the end on."""
+    asked = []
+    r = begin
+    for x in reversed(a):
+        r = ask(answers, asked, f, c, x, r)
+    return given_back(r, [], asked)
+
+
+def scan(f, c, begin, a, answers):
+    """Go through a as fold does, and tell r after each number."""
+    asked = []
+    told = []
+    r = begin
+    for x in a:
+        r = ask(answers, asked, f, c, r, x)
+        told.append(r)
+    return given_back(len(a), told, asked)

@@ -1,0 +1,136 @@
+"""What the interface says of every function alike."""
+
+import ast
+import contextlib
+import copy
+import inspect
+import io
+import pathlib
+import unittest
+
+import handedover
+from handedover import rows
+from support import Unchanging
+
+# For each function: what it is handed by name, and other values to call it with in between.
+CALLS = {
+    "fold": (
+        {"f": 7, "c": 5, "begin": 10, "a": [3, 1, 2], "answers": [30, 20]},
+        {"f": 1, "c": 0, "begin": -4, "a": [9, 8, 7, 6], "answers": [1, 2, 3, 4, 5]},
+    ),
+    "back": (
+        {"f": 7, "c": 5, "begin": 10, "a": [3, 1, 2], "answers": [30, 20]},
+        {"f": 1, "c": 0, "begin": -4, "a": [9, 8, 7, 6], "answers": [1, 2, 3, 4, 5]},
+    ),
+    "scan": (
+        {"f": 7, "c": 5, "begin": 10, "a": [3, 1, 2], "answers": [30, 20]},
+        {"f": 1, "c": 0, "begin": -4, "a": [9, 8, 7, 6], "answers": [1, 2, 3, 4, 5]},
+    ),
+}
+
+
+def call(name, handed):
+    return getattr(rows, name)(**handed)
+
+
+def with_unchanging_lists(handed):
+    return {key: Unchanging(value) if isinstance(value, list) else value for key, value in handed.items()}
+
+
+class EveryCall(unittest.TestCase):
+    def for_each(self, check):
+        for name, (handed, other) in CALLS.items():
+            with self.subTest(name):
+                check(name, handed, other)
+
+    def test_its_arguments_are_named_and_ordered_as_in_the_document(self):
+        def check(name, handed, other):
+            parameters = inspect.signature(getattr(rows, name)).parameters
+            self.assertEqual(list(parameters), list(handed))
+            for parameter in parameters.values():
+                self.assertIs(parameter.default, inspect.Parameter.empty)
+                self.assertIs(parameter.kind, inspect.Parameter.POSITIONAL_OR_KEYWORD)
+            self.assertEqual(call(name, handed), getattr(rows, name)(*handed.values()))
+
+        self.for_each(check)
+
+    def test_what_is_handed_in_is_as_it_was(self):
+        def check(name, handed, other):
+            before = copy.deepcopy(handed)
+            call(name, handed)
+            self.assertEqual(handed, before)
+
+        self.for_each(check)
+
+    def test_what_is_handed_in_is_not_changed_for_a_while_either(self):
+        def check(name, handed, other):
+            self.assertEqual(call(name, with_unchanging_lists(handed)), call(name, handed))
+
+        self.for_each(check)
+
+    def test_a_second_call_gives_back_the_same(self):
+        def check(name, handed, other):
+            first = call(name, handed)
+            self.assertEqual(call(name, handed), first)
+
+        self.for_each(check)
+
+    def test_nothing_is_kept_from_calls_in_between(self):
+        def check(name, handed, other):
+            first = call(name, handed)
+            for other_name in CALLS:
+                call(other_name, CALLS[other_name][1])
+            self.assertEqual(call(name, handed), first)
+
+        self.for_each(check)
+
+    def test_what_is_given_back_is_the_caller_s_own(self):
+        def check(name, handed, other):
+            before = copy.deepcopy(handed)
+            first = call(name, handed)
+            kept = list(first)
+            first.clear()
+            self.assertEqual(handed, before)
+            self.assertEqual(call(name, handed), kept)
+
+        self.for_each(check)
+
+    def test_the_same_list_as_row_and_answers(self):
+        def check(name, handed, other):
+            row = [3, 1, 2]
+            shared = dict(handed, a=row, answers=row)
+            apart = dict(handed, a=list(row), answers=list(row))
+            self.assertEqual(call(name, shared), call(name, apart))
+
+        self.for_each(check)
+
+    def test_a_list_of_whole_numbers_is_given_back(self):
+        def check(name, handed, other):
+            for values in (handed, other, dict(handed, answers=[]), dict(handed, a=[])):
+                result = call(name, values)
+                self.assertIs(type(result), list)
+                self.assertEqual({type(number) for number in result}, {int})
+
+        self.for_each(check)
+
+    def test_nothing_is_printed(self):
+        def check(name, handed, other):
+            printed = io.StringIO()
+            with contextlib.redirect_stdout(printed), contextlib.redirect_stderr(printed):
+                call(name, handed)
+            self.assertEqual(printed.getvalue(), "")
+
+        self.for_each(check)
+
+
+class Package(unittest.TestCase):
+    def test_it_imports_nothing(self):
+        files = sorted(pathlib.Path(handedover.__file__).parent.rglob("*.py"))
+        self.assertTrue(files)
+        for file in files:
+            for node in ast.walk(ast.parse(file.read_text(encoding="utf-8"))):
+                self.assertNotIsInstance(node, (ast.Import, ast.ImportFrom), file.name)
+
+
+if __name__ == "__main__":
+    unittest.main()
