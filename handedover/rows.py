@@ -3,8 +3,11 @@
 A function is its number here, and the list answers holds what it says, asking by asking.
 """
 
+# Stands in a function's place where a number is to stay as it is.
+NO_FUNCTION = -1
 
-def ask(answers, asked, f, c, x, y):
+
+def ask(answers, asked, f, c, x, y=0):
     """Tell one asking at the end of asked and give back its answer: 0 once the answers are used up."""
     # Each asking tells four numbers, so what was asked so far also says how many answers are used.
     turn = len(asked) // 4
@@ -46,3 +49,38 @@ def scan(f, c, begin, a, answers):
         r = ask(answers, asked, f, c, r, x)
         told.append(r)
     return given_back(len(a), told, asked)
+
+
+def map_row(g, c, a, answers):
+    """Tell g (c, x) for each x of a from the front on; with -1 for g, x itself."""
+    asked = []
+    told = []
+    for x in a:
+        if g == NO_FUNCTION:
+            told.append(x)
+        else:
+            told.append(ask(answers, asked, g, c, x))
+    return given_back(len(a), told, asked)
+
+
+def keep(p, c, a, answers):
+    """Tell those x of a of which p (c, x) isn't 0, asked from the front on."""
+    asked = []
+    told = []
+    for x in a:
+        if ask(answers, asked, p, c, x) != 0:
+            told.append(x)
+    return given_back(len(told), told, asked)
+
+
+def split(p, c, a, answers):
+    """Tell first those x of a of which p (c, x) isn't 0, then the others, and answer how many the first are."""
+    asked = []
+    first = []
+    others = []
+    for x in a:
+        if ask(answers, asked, p, c, x) != 0:
+            first.append(x)
+        else:
+            others.append(x)
+    return given_back(len(first), first + others, asked)

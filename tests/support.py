@@ -24,9 +24,11 @@ def numbers(count, step):
     return [(k - count // 2) * step for k in range(count)]
 
 
-def askings(f, c, firsts, seconds):
-    """What was asked, with how many numbers it has ahead of it."""
+def askings(f, c, firsts, seconds=None):
+    """What was asked, with how many numbers it has ahead of it; without seconds, each is 0."""
     flat = []
+    if seconds is None:
+        seconds = [0] * len(firsts)
     for first, second in zip(firsts, seconds, strict=True):
         flat += [f, c, first, second]
     return [len(flat)] + flat

@@ -26,6 +26,18 @@ CALLS = {
         {"f": 7, "c": 5, "begin": 10, "a": [3, 1, 2], "answers": [30, 20]},
         {"f": 1, "c": 0, "begin": -4, "a": [9, 8, 7, 6], "answers": [1, 2, 3, 4, 5]},
     ),
+    "map_row": (
+        {"g": 7, "c": 5, "a": [3, 1, 2], "answers": [30, 20]},
+        {"g": -1, "c": 0, "a": [9, 8, 7, 6], "answers": [1, 2, 3, 4, 5]},
+    ),
+    "keep": (
+        {"p": 7, "c": 5, "a": [3, 1, 2], "answers": [0, 20]},
+        {"p": 1, "c": 0, "a": [9, 8, 7, 6], "answers": [1, 0, 3, 4, 5]},
+    ),
+    "split": (
+        {"p": 7, "c": 5, "a": [3, 1, 2], "answers": [0, 20]},
+        {"p": 1, "c": 0, "a": [9, 8, 7, 6], "answers": [1, 0, 3, 4, 5]},
+    ),
 }
 
 
@@ -33,8 +45,12 @@ def call(name, handed):
     return getattr(rows, name)(**handed)
 
 
+def lists_of(handed):
+    return {key: value for key, value in handed.items() if isinstance(value, list)}
+
+
 def with_unchanging_lists(handed):
-    return {key: Unchanging(value) if isinstance(value, list) else value for key, value in handed.items()}
+    return handed | {key: Unchanging(value) for key, value in lists_of(handed).items()}
 
 
 class EveryCall(unittest.TestCase):
@@ -56,22 +72,25 @@ class EveryCall(unittest.TestCase):
 
     def test_what_is_handed_in_is_as_it_was(self):
         def check(name, handed, other):
-            before = copy.deepcopy(handed)
-            call(name, handed)
-            self.assertEqual(handed, before)
+            for values in (handed, other):
+                before = copy.deepcopy(values)
+                call(name, values)
+                self.assertEqual(values, before)
 
         self.for_each(check)
 
     def test_what_is_handed_in_is_not_changed_for_a_while_either(self):
         def check(name, handed, other):
-            self.assertEqual(call(name, with_unchanging_lists(handed)), call(name, handed))
+            for values in (handed, other):
+                self.assertEqual(call(name, with_unchanging_lists(values)), call(name, values))
 
         self.for_each(check)
 
     def test_a_second_call_gives_back_the_same(self):
         def check(name, handed, other):
-            first = call(name, handed)
-            self.assertEqual(call(name, handed), first)
+            for values in (handed, other):
+                first = call(name, values)
+                self.assertEqual(call(name, values), first)
 
         self.for_each(check)
 
@@ -86,27 +105,30 @@ class EveryCall(unittest.TestCase):
 
     def test_what_is_given_back_is_the_caller_s_own(self):
         def check(name, handed, other):
-            before = copy.deepcopy(handed)
-            first = call(name, handed)
-            kept = list(first)
-            first.clear()
-            self.assertEqual(handed, before)
-            self.assertEqual(call(name, handed), kept)
+            for values in (handed, other):
+                before = copy.deepcopy(values)
+                first = call(name, values)
+                kept = list(first)
+                first.clear()
+                self.assertEqual(values, before)
+                self.assertEqual(call(name, values), kept)
 
         self.for_each(check)
 
     def test_the_same_list_as_row_and_answers(self):
         def check(name, handed, other):
-            row = [3, 1, 2]
-            shared = dict(handed, a=row, answers=row)
-            apart = dict(handed, a=list(row), answers=list(row))
-            self.assertEqual(call(name, shared), call(name, apart))
+            row = [3, 0, 2]
+            for values in (handed, other):
+                shared = values | {key: row for key in lists_of(values)}
+                apart = values | {key: list(row) for key in lists_of(values)}
+                self.assertEqual(call(name, shared), call(name, apart))
 
         self.for_each(check)
 
     def test_a_list_of_whole_numbers_is_given_back(self):
         def check(name, handed, other):
-            for values in (handed, other, dict(handed, answers=[]), dict(handed, a=[])):
+            emptied = [handed | {key: []} for key in lists_of(handed)]
+            for values in [handed, other] + emptied:
                 result = call(name, values)
                 self.assertIs(type(result), list)
                 self.assertEqual({type(number) for number in result}, {int})
@@ -118,6 +140,7 @@ class EveryCall(unittest.TestCase):
             printed = io.StringIO()
             with contextlib.redirect_stdout(printed), contextlib.redirect_stderr(printed):
                 call(name, handed)
+                call(name, other)
             self.assertEqual(printed.getvalue(), "")
 
         self.for_each(check)
