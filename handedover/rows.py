@@ -84,3 +84,40 @@ def split(p, c, a, answers):
         else:
             others.append(x)
     return given_back(len(first), first + others, asked)
+
+
+def pairs(f, c, a, answers):
+    """Tell f (c, x, y) of each two neighbours x and y of a, from the front on."""
+    asked = []
+    told = []
+    for k in range(1, len(a)):
+        told.append(ask(answers, asked, f, c, a[k - 1], a[k]))
+    return given_back(len(told), told, asked)
+
+
+def once(same, c, a, answers):
+    """Tell the first number of a and each further x of which same (c, the one kept last, x) is 0."""
+    asked = []
+    kept = a[:1]
+    for x in a[1:]:
+        if ask(answers, asked, same, c, kept[-1], x) == 0:
+            kept.append(x)
+    return given_back(len(kept), kept, asked)
+
+
+def merge(less, c, a, b, answers):
+    """Put a and b together: of the first ones left, x of a and y of b, y is taken where less (c, y, x) isn't 0."""
+    asked = []
+    taken = []
+    at_a = 0
+    at_b = 0
+    while at_a < len(a) and at_b < len(b):
+        if ask(answers, asked, less, c, b[at_b], a[at_a]) != 0:
+            taken.append(b[at_b])
+            at_b += 1
+        else:
+            taken.append(a[at_a])
+            at_a += 1
+    # One of the two has no numbers left here, so their order doesn't matter.
+    told = taken + a[at_a:] + b[at_b:]
+    return given_back(len(told), told, asked)
