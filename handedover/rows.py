@@ -121,3 +121,40 @@ def merge(less, c, a, b, answers):
     # One of the two has no numbers left here, so their order doesn't matter.
     told = taken + a[at_a:] + b[at_b:]
     return given_back(len(told), told, asked)
+
+
+def unfold(x, g, p, c, most, answers):
+    """Tell x, then g of each value told, until p of a value is 0 or most are told."""
+    asked = []
+    told = []
+    value = x
+    while len(told) < most:
+        if ask(answers, asked, p, c, value) == 0:
+            break
+        told.append(value)
+        # Behind the last one told no value is needed, so none may be asked for.
+        if len(told) < most:
+            value = ask(answers, asked, g, c, value)
+    return given_back(len(told), told, asked)
+
+
+def times(x, k, g, c, answers):
+    """Answer what x is once it has become g (c, x) k times, or came out as it went in before that."""
+    asked = []
+    value = x
+    for turn in range(k):
+        before = value
+        value = ask(answers, asked, g, c, before)
+        if value == before:
+            break
+    return given_back(value, [], asked)
+
+
+def both(x, g, h, c, answers):
+    """Answer h of g of x; -1 for either leaves the number as it is."""
+    asked = []
+    value = x
+    for f in (g, h):
+        if f != NO_FUNCTION:
+            value = ask(answers, asked, f, c, value)
+    return given_back(value, [], asked)
