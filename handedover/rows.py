@@ -158,3 +158,17 @@ def both(x, g, h, c, answers):
         if f != NO_FUNCTION:
             value = ask(answers, asked, f, c, value)
     return given_back(value, [], asked)
+
+
+def search(lo, hi, p, c, answers):
+    """Answer lo once it has met hi: of the middle m, hi becomes m where p (c, m) isn't 0, else lo becomes m + 1."""
+    asked = []
+    low = lo
+    high = hi
+    while low < high:
+        middle = low + (high - low) // 2
+        if ask(answers, asked, p, c, middle) != 0:
+            high = middle
+        else:
+            low = middle + 1
+    return given_back(low, [], asked)

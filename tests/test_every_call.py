@@ -1,16 +1,24 @@
 """What the interface says of every function alike."""
 
 import ast
+import builtins
 import contextlib
 import copy
+import importlib.util
 import inspect
 import io
 import pathlib
+import sys
 import unittest
+import unittest.mock
 
 import handedover
 from handedover import rows
 from support import Unchanging
+
+NAMES = [
+    "fold", "back", "scan", "map_row", "keep", "split", "pairs", "once", "merge", "unfold", "times", "both", "search",
+]
 
 # For each function: what it is handed by name, and other values to call it with in between.
 CALLS = {
@@ -62,11 +70,42 @@ CALLS = {
         {"x": 10, "g": 7, "h": 6, "c": 5, "answers": [30]},
         {"x": -4, "g": -1, "h": 1, "c": 0, "answers": [1, 2, 3]},
     ),
+    "search": (
+        {"lo": -9, "hi": 10, "p": 7, "c": 5, "answers": [1, 0]},
+        {"lo": 3, "hi": 6, "p": 1, "c": 0, "answers": [1, 1, 0, 1]},
+    ),
 }
 
 
-def call(name, handed):
-    return getattr(rows, name)(**handed)
+def call(name, handed, module=rows):
+    return getattr(module, name)(**handed)
+
+
+def rows_as_if_new():
+    """The module loaded once more, so that no call of it was made yet."""
+    spec = importlib.util.spec_from_file_location("rows_as_if_new", rows.__file__)
+    module = importlib.util.module_from_spec(spec)
+    spec.loader.exec_module(module)
+    return module
+
+
+def refuse(*args, **kwargs):
+    raise AssertionError("something is printed, read or imported")
+
+
+class Refusing(io.TextIOBase):
+    """Stands for standard input, output or error where none of them may be used."""
+
+    read = readline = readlines = write = writelines = fileno = flush = refuse
+
+
+@contextlib.contextmanager
+def nothing_but_values():
+    """Within it, whatever prints, reads or imports fails."""
+    own_names = {name: refuse for name in ("open", "input", "print", "__import__")}
+    streams = {name: Refusing() for name in ("stdin", "stdout", "stderr")}
+    with unittest.mock.patch.multiple(sys, **streams), unittest.mock.patch.multiple(builtins, **own_names):
+        yield
 
 
 def lists_of(handed):
@@ -121,9 +160,21 @@ class EveryCall(unittest.TestCase):
     def test_nothing_is_kept_from_calls_in_between(self):
         def check(name, handed, other):
             first = call(name, handed)
-            for other_name in CALLS:
-                call(other_name, CALLS[other_name][1])
-            self.assertEqual(call(name, handed), first)
+            for other_name, both_values in CALLS.items():
+                for values in both_values:
+                    call(other_name, values)
+                    self.assertEqual(call(name, handed), first, other_name)
+
+        self.for_each(check)
+
+    def test_every_call_is_as_if_for_the_first_time(self):
+        for name, both_values in CALLS.items():
+            for values in both_values:
+                call(name, values)
+
+        def check(name, handed, other):
+            for values in (handed, other):
+                self.assertEqual(call(name, values), call(name, values, rows_as_if_new()))
 
         self.for_each(check)
 
@@ -159,18 +210,23 @@ class EveryCall(unittest.TestCase):
 
         self.for_each(check)
 
-    def test_nothing_is_printed(self):
+    def test_nothing_is_printed_read_or_imported(self):
         def check(name, handed, other):
-            printed = io.StringIO()
-            with contextlib.redirect_stdout(printed), contextlib.redirect_stderr(printed):
-                call(name, handed)
-                call(name, other)
-            self.assertEqual(printed.getvalue(), "")
+            expected = [call(name, handed), call(name, other)]
+            with nothing_but_values():
+                result = [call(name, handed), call(name, other)]
+            self.assertEqual(result, expected)
 
         self.for_each(check)
 
 
 class Package(unittest.TestCase):
+    def test_all_its_functions_are_there_and_in_the_table_of_calls(self):
+        self.assertEqual(len(NAMES), 13)
+        self.assertEqual(list(CALLS), NAMES)
+        for name in NAMES:
+            self.assertTrue(inspect.isfunction(getattr(rows, name)), name)
+
     def test_it_imports_nothing(self):
         files = sorted(pathlib.Path(handedover.__file__).parent.rglob("*.py"))
         self.assertTrue(files)
